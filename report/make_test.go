@@ -149,6 +149,13 @@ func TestP51NumbersGrow(t *testing.T) {
 			checkMake(t, home, mtu, spans(at+1, at+128, at+140, at+199), at, at+200, 3, 7)
 		}
 	}
+	for _, upper := range []int{126, 127, 128, 129, 16383, 16384, 16385} {
+		set := comb(upper-90, 45, 2)
+		for mtu := api.MinMtu; mtu < api.MinMtu+60; mtu++ {
+			checkMake(t, home, mtu, set, upper-90, upper, 3, 7)
+			checkMake(t, home, mtu, set, 0, upper, 3, 7)
+		}
+	}
 	// The second report's serial has a byte more than the first one's: so it has a claim less.
 	for _, x := range []struct{ serial, second int }{{7, 36}, {126, 36}, {127, 35}, {128, 35}} {
 		got := checkMake(t, home, 82, comb(0, 108, 2), 0, 216, 3, x.serial)
