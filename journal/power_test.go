@@ -203,28 +203,40 @@ func goesOn(t *testing.T, h *disk.Hand, j *journal.Journal, told []api.Record) {
 	fatalIf(t, !sameAll(l, append(told[:len(told):len(told)], row(9000, 2)...)), "told %v behind %v", sizes(l), sizes(told))
 }
 
-// P7.6, at every act of every word, done or not, with every number of bytes that stay; and the power goes again in the Open behind it, or not (P7.7).
+// loosest is how many bytes of a file a loss of power can take at most.
+func loosest(h *disk.Hand) (most int) {
+	for _, f := range h.Files() {
+		most = max(most, len(f.Bytes)-f.Safe)
+	}
+	return most
+}
+
+// backAgain plays a word, its power gone on that act, with every number of bytes that can stay; it tells whether the power went in it.
+func backAgain(t *testing.T, word string, acts int, done bool) bool {
+	h, _, did := lose(t, word, acts, done)
+	for keep := range loosest(h) + 1 {
+		h, w, _ := lose(t, word, acts, done)
+		h.Crash(keep)
+		j, l := mustOpen(t, h)
+		fatalIf(t, !w.allows(l), "%s, the power gone on act %d (done: %v), %d bytes kept: told %v, safe %v, since %v, instead %v", word, acts, done, keep, sizes(l), sizes(w.safe), sizes(w.since), sizes(w.instead))
+		goesOn(t, h, j, l)
+	}
+	return did
+}
+
+// P7.6, at every act of every word, done or not, and behind its last one.
 func TestP76BackAgain(t *testing.T) {
-	for count := 1; count < 4; count++ {
+	for count := range 4 {
 		for _, word := range deeds(count) {
 			for _, done := range []bool{false, true} {
-				did := true
-				for acts := 0; did; acts++ {
-					for keep := 0; keep <= 66; keep += 1 + keep/24*2 {
-						var h *disk.Hand
-						var w past
-						h, w, did = lose(t, word, acts, done)
-						h.Crash(keep)
-						j, l := mustOpen(t, h)
-						fatalIf(t, !w.allows(l), "%s, the power gone on act %d (done: %v), %d bytes kept: told %v, safe %v, since %v, instead %v", word, acts, done, keep, sizes(l), sizes(w.safe), sizes(w.since), sizes(w.instead))
-						goesOn(t, h, j, l)
-					}
+				for acts := 0; backAgain(t, word, acts, done); acts++ {
 				}
 			}
 		}
 	}
 }
 
+// The power goes in the Open behind a loss of power, too: all that stayed is safe, so the next Open tells it.
 func TestP77PowerGoesAgainInOpen(t *testing.T) {
 	for _, word := range deeds(2) {
 		for acts := range 7 {
